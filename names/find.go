@@ -7,7 +7,7 @@ import (
 
 // thing: what is kept of a number.
 func (n *Names) thing(ino int) (thing, api.Errno) {
-	if ino < root || ino > maxIno {
+	if ino < root {
 		return thing{}, api.ErrMiss
 	}
 	val, e := n.tree.Get(thingKey(ino))
@@ -23,10 +23,11 @@ func (n *Names) named(key string) (thing, api.Errno) {
 	if e != api.OK {
 		return thing{}, e
 	}
-	if len(val) != width {
+	ino, ok := placedAlone(val)
+	if !ok {
 		return thing{}, api.ErrForm
 	}
-	return n.thing(numberOf(val))
+	return n.thing(ino)
 }
 
 // look: what a path names.

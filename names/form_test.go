@@ -1,6 +1,7 @@
 package names_test
 
 import (
+	"math"
 	"slices"
 	"strings"
 	"testing"
@@ -10,9 +11,20 @@ import (
 	"cistern/tree"
 )
 
-// num is how a number stands in a key or a value.
-func num(n int) string {
+// count is how a size stands in a value, and how many names there are.
+func count(n int) string {
 	return string([]byte{byte(n >> 24), byte(n >> 16), byte(n >> 8), byte(n)})
+}
+
+// given is how the greatest number that was given stands in the root's value.
+func given(n int) string {
+	return count(n>>32) + count(n)
+}
+
+// num is how the number of a thing stands in a key or a value: no bytes more than it takes.
+func num(n int) string {
+	b := strings.TrimLeft(given(n), "\x00")
+	return string([]byte{byte(len(b))}) + b
 }
 
 func thing(ino int) string {
@@ -57,7 +69,7 @@ func TestKept(t *testing.T) {
 	r := village(t)
 	want := []api.Pair{
 		{Key: name(1, "a"), Val: num(2)}, {Key: name(1, "g"), Val: num(3)}, {Key: name(2, "b"), Val: num(4)}, {Key: name(2, "f"), Val: num(3)},
-		{Key: thing(1), Val: "d" + num(6)}, {Key: thing(2), Val: "d"}, {Key: thing(3), Val: "f" + num(9) + num(2)}, {Key: thing(4), Val: "d"},
+		{Key: thing(1), Val: "d" + given(6)}, {Key: thing(2), Val: "d"}, {Key: thing(3), Val: "f" + count(9) + count(2)}, {Key: thing(4), Val: "d"},
 	}
 	if l := pairs(t, r); !slices.Equal(l, want) {
 		t.Errorf("%q", l)
@@ -77,7 +89,7 @@ func TestEachPairCounts(t *testing.T) {
 			told(t, "Drop", r.Drop(p.Key), api.OK)
 			refused(t, "with another key", r)
 		}
-		for _, val := range []string{p.Val[:len(p.Val)-1], "", p.Val + "\x00", p.Val + num(1), "x" + p.Val[1:], "f" + num(0), num(0), num(9), "f" + num(0) + num(9), "f" + num(0) + num(0), "D"} {
+		for _, val := range []string{p.Val[:len(p.Val)-1], "", p.Val + "\x00", p.Val + num(1), "\x00" + p.Val, "x" + p.Val[1:], "f" + count(0), count(0), count(9), num(0), num(9), "f" + count(0) + count(9), "f" + count(0) + count(0), "d" + count(6), "D"} {
 			r := village(t)
 			told(t, "Put", r.Put(p.Key, val), api.OK)
 			refused(t, "with another value", r)
@@ -93,7 +105,7 @@ type altered struct {
 }
 
 func TestForm(t *testing.T) {
-	f := func(size, links int) string { return "f" + num(size) + num(links) }
+	f := func(size, links int) string { return "f" + count(size) + count(links) }
 	long := "0123456789abcdef"
 	for _, x := range []altered{
 		{"as it is", nil, true},
@@ -128,12 +140,29 @@ func TestForm(t *testing.T) {
 		{"a file of one name that is like a directory", []api.Pair{{Key: thing(3), Val: "d"}, {Key: name(1, "g"), Val: "-"}}, true},
 		{"a root that is a file", []api.Pair{{Key: thing(1), Val: f(0, 1)}}, false},
 		{"a root that gave nothing", []api.Pair{{Key: thing(1), Val: "d"}}, false},
-		{"a root that gave less", []api.Pair{{Key: thing(1), Val: "d" + num(3)}}, false},
-		{"a root that gave just what is there", []api.Pair{{Key: thing(1), Val: "d" + num(4)}}, true},
-		{"a root that gave the most", []api.Pair{{Key: thing(1), Val: "d" + num(1<<31-1)}}, true},
-		{"a root that gave more", []api.Pair{{Key: thing(1), Val: "d" + num(1<<31)}}, false},
-		{"a root that gave 0", []api.Pair{{Key: thing(1), Val: "d" + num(0)}}, false},
-		{"another directory that gave numbers", []api.Pair{{Key: thing(4), Val: "d" + num(6)}}, false},
+		{"a root that gave less", []api.Pair{{Key: thing(1), Val: "d" + given(3)}}, false},
+		{"a root that gave just what is there", []api.Pair{{Key: thing(1), Val: "d" + given(4)}}, true},
+		{"a root that gave many", []api.Pair{{Key: thing(1), Val: "d" + given(1<<31-1)}}, true},
+		{"a root that gave the most", []api.Pair{{Key: thing(1), Val: "d" + given(mostGiven)}}, true},
+		{"a root that gave more", []api.Pair{{Key: thing(1), Val: "d" + given(mostGiven+1)}}, false},
+		{"a root that gave all", []api.Pair{{Key: thing(1), Val: "d" + given(math.MaxInt)}}, false},
+		{"a root that gave less than nothing", []api.Pair{{Key: thing(1), Val: "d" + given(-1)}}, false},
+		{"a root that gave the least", []api.Pair{{Key: thing(1), Val: "d" + given(math.MinInt)}}, false},
+		{"a root that gave a number of four bytes", []api.Pair{{Key: thing(1), Val: "d" + count(6)}}, false},
+		{"a root that gave a number of nine bytes", []api.Pair{{Key: thing(1), Val: "d\x00" + given(6)}}, false},
+		{"numbers of four bytes", []api.Pair{{Key: thing(1), Val: "-"}, {Key: "nt" + count(1), Val: "d" + given(6)}}, false},
+		{"a number with a nought at its front", []api.Pair{{Key: name(4, "x"), Val: "\x02\x00\x05"}, {Key: "nt\x02\x00\x05", Val: f(0, 1)}}, false},
+		{"a number with a nought at its front in a key alone", []api.Pair{{Key: name(4, "x"), Val: num(5)}, {Key: "nt\x02\x00\x05", Val: f(0, 1)}}, false},
+		{"a number with a nought at its front in a name's value alone", []api.Pair{{Key: name(4, "x"), Val: "\x02\x00\x05"}, {Key: thing(5), Val: f(0, 1)}}, false},
+		{"a number with a nought at its front in a name's key", []api.Pair{{Key: "nn\x02\x00\x04x", Val: num(5)}, {Key: thing(5), Val: f(0, 1)}}, false},
+		{"a number with bytes behind it in a name's value", []api.Pair{{Key: name(4, "x"), Val: num(5) + "x"}, {Key: thing(5), Val: f(0, 1)}}, false},
+		{"a number with bytes behind it in a key", []api.Pair{{Key: name(4, "x"), Val: num(5)}, {Key: thing(5) + "x", Val: f(0, 1)}}, false},
+		{"a number that ends early", []api.Pair{{Key: name(4, "x"), Val: "\x02\x05"}, {Key: "nt\x02\x05", Val: f(0, 1)}}, false},
+		{"a number of nine bytes", []api.Pair{{Key: name(4, "x"), Val: "\x09\x01" + given(5)}, {Key: "nt\x09\x01" + given(5), Val: f(0, 1)}}, false},
+		{"a number below nothing", []api.Pair{{Key: name(4, "x"), Val: num(-5)}, {Key: thing(-5), Val: f(0, 1)}}, false},
+		{"a directory below nothing", []api.Pair{{Key: name(4, "x"), Val: num(-5)}, {Key: thing(-5), Val: "d"}}, false},
+		{"a root that gave 0", []api.Pair{{Key: thing(1), Val: "d" + given(0)}}, false},
+		{"another directory that gave numbers", []api.Pair{{Key: thing(4), Val: "d" + given(6)}}, false},
 		{"a name of 16 bytes", []api.Pair{{Key: name(4, long), Val: num(3)}, {Key: thing(3), Val: f(9, 3)}}, true},
 		{"a name of 17 bytes", []api.Pair{{Key: name(4, long+"g"), Val: num(3)}, {Key: thing(3), Val: f(9, 3)}}, false},
 		{"a name of no bytes", []api.Pair{{Key: name(4, ""), Val: num(3)}, {Key: thing(3), Val: f(9, 3)}}, false},
@@ -161,19 +190,63 @@ func TestForm(t *testing.T) {
 	}
 }
 
-// The greatest number of all is one.
-func TestGreatestNumber(t *testing.T) {
-	r := village(t)
-	const most = 1<<31 - 1
-	for _, p := range []api.Pair{{Key: thing(1), Val: "d" + num(most)}, {Key: thing(most), Val: "f" + num(5) + num(1)}, {Key: name(4, "x"), Val: num(most)}} {
-		told(t, "Put", r.Put(p.Key, p.Val), api.OK)
+// mostGiven is the greatest number that may have been given in a tree: there are as many left as a program has steps.
+const mostGiven = math.MaxInt - (1<<31 - 1)
+
+// Numbers of all lengths are numbers.
+func TestGreatNumbers(t *testing.T) {
+	for _, most := range []int{7, 127, 128, 255, 256, 257, 1<<16 - 1, 1 << 16, 1<<31 - 1, 1 << 31, 1<<32 - 1, 1 << 32, 1<<56 - 1, 1 << 56, mostGiven} {
+		r := village(t)
+		for _, p := range []api.Pair{{Key: thing(1), Val: "d" + given(most)}, {Key: thing(most), Val: "f" + count(5) + count(1)}, {Key: name(4, "x"), Val: num(most)}} {
+			told(t, "Put", r.Put(p.Key, p.Val), api.OK)
+		}
+		n := opened(t, r)
+		knows(t, n, most, file, 5, 1)
+		looks(t, n, "/a/b/x", most, api.OK)
+		told(t, "Resize", n.Resize(most, 6), api.OK)
+		knows(t, n, most, file, 6, 1)
+		gone(t, n, most+1, most-1)
 	}
-	n := opened(t, r)
-	knows(t, n, most, file, 5, 1)
-	looks(t, n, "/a/b/x", most, api.OK)
-	told(t, "Resize", n.Resize(most, 6), api.OK)
-	knows(t, n, most, file, 6, 1)
-	gone(t, n, most+1, most-1)
+}
+
+// lives does something with new files and directories in names in which so many numbers were given.
+func lives(t *testing.T, n *names.Names, most int) {
+	t.Helper()
+	made(t, n, "/a", file, most+1)
+	looks(t, n, "/a", most+1, api.OK)
+	looks(t, n, "/", 1, api.OK)
+	knows(t, n, most+1, file, 0, 1)
+	made(t, n, "/d", directory, most+2)
+	made(t, n, "/d/e", directory, most+3)
+	made(t, n, "/d/f", file, most+4)
+	lists(t, n, "/d", "e", "f")
+	linked(t, n, "/d/f", "/d/e/g")
+	told(t, "Resize", n.Resize(most+4, 77), api.OK)
+	knows(t, n, most+4, file, 77, 2)
+	moved(t, n, "/d/e/g", "/a", most+1)
+	gone(t, n, most+1, most+5)
+	moved(t, n, "/d", "/b", 0)
+	looks(t, n, "/b/e", most+3, api.OK)
+	told(t, "Rmdir", n.Rmdir("/b/e"), api.OK)
+	unlinked(t, n, "/b/f", 0)
+	unlinked(t, n, "/a", most+4)
+	made(t, n, "/b/h", file, most+5)
+	lists(t, n, "/", "b")
+}
+
+// However many numbers were given in a tree that is taken for names, there are more, and all calls answer for them.
+func TestNumbersGoOn(t *testing.T) {
+	for _, most := range []int{1, 2, 125, 126, 127, 253, 254, 255, 1<<16 - 3, 1<<31 - 3, 1<<31 - 2, 1<<31 - 1, 1 << 31, 1<<32 - 5, 1<<32 - 2, 1<<32 - 1, 1 << 32, 1<<56 - 2, 1 << 62, mostGiven - 4, mostGiven} {
+		_, _, r := grove(t, 60)
+		told(t, "Put", r.Put(thing(1), "d"+given(most)), api.OK)
+		n := opened(t, r)
+		lives(t, n, most)
+		if most < mostGiven-4 {
+			n = opened(t, r)
+		}
+		looks(t, n, "/b/h", most+5, api.OK)
+		made(t, n, "/c", file, most+6)
+	}
 }
 
 // chain puts directories in each other into a new tree, so many from the root on, and in the last of them a name of what
@@ -181,7 +254,7 @@ func TestGreatestNumber(t *testing.T) {
 func chain(t *testing.T, n int, val string) *tree.Tree {
 	t.Helper()
 	_, _, r := grove(t, 300)
-	told(t, "Put", r.Put(thing(1), "d"+num(n+2)), api.OK)
+	told(t, "Put", r.Put(thing(1), "d"+given(n+2)), api.OK)
 	for i := range n {
 		told(t, "Put", r.Put(thing(i+2), "d"), api.OK)
 		told(t, "Put", r.Put(name(i+1, "a"), num(i+2)), api.OK)
@@ -195,7 +268,7 @@ func chain(t *testing.T, n int, val string) *tree.Tree {
 
 // A path has ten names, in what is found in a tree too.
 func TestFormDeep(t *testing.T) {
-	for _, val := range []string{"d", "f" + num(0) + num(1)} {
+	for _, val := range []string{"d", "f" + count(0) + count(1)} {
 		if _, e := names.New(chain(t, 9, val)); e != api.OK {
 			t.Errorf("ten names: %d", e)
 		}
@@ -208,7 +281,7 @@ func TestFormDeep(t *testing.T) {
 // However many directories are in each other, and however often, New ends.
 func TestFormWeb(t *testing.T) {
 	_, _, r := grove(t, 300)
-	told(t, "Put", r.Put(thing(1), "d"+num(40)), api.OK)
+	told(t, "Put", r.Put(thing(1), "d"+given(40)), api.OK)
 	for i := 2; i <= 20; i++ {
 		told(t, "Put", r.Put(thing(i), "d"), api.OK)
 		for above := 1; above <= 20; above++ {

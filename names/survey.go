@@ -33,11 +33,14 @@ func survey(pairs []api.Pair) api.Errno {
 
 // takeThing takes the pair of a thing; is it one?
 func (f *found) takeThing(p api.Pair) bool {
-	rest, ok := strings.CutPrefix(p.Key, thingKeys)
-	if !ok || len(rest) != width {
+	at, ok := strings.CutPrefix(p.Key, thingKeys)
+	if !ok {
 		return false
 	}
-	ino := numberOf(rest)
+	ino, ok := placedAlone(at)
+	if !ok {
+		return false
+	}
 	x, e := thingOf(ino, p.Val)
 	if e != api.OK {
 		return false
@@ -48,12 +51,19 @@ func (f *found) takeThing(p api.Pair) bool {
 
 // takeName takes the pair of a name; is it one?
 func (f *found) takeName(p api.Pair) bool {
-	rest, ok := strings.CutPrefix(p.Key, nameKeys)
-	if !ok || len(rest) < width || !route.Name(rest[width:]) || len(p.Val) != width {
+	at, ok := strings.CutPrefix(p.Key, nameKeys)
+	if !ok {
 		return false
 	}
-	dir := numberOf(rest)
-	f.inside[dir] = append(f.inside[dir], numberOf(p.Val))
+	dir, name, ok := placedAt(at)
+	if !ok || !route.Name(name) {
+		return false
+	}
+	ino, ok := placedAlone(p.Val)
+	if !ok {
+		return false
+	}
+	f.inside[dir] = append(f.inside[dir], ino)
 	f.names++
 	return true
 }
@@ -77,9 +87,12 @@ func (f *found) visit(dir, depth int) bool {
 
 // allMet: is there no name that wasn't met, and has each thing as many as it says, and a number that was given?
 func (f *found) allMet() bool {
-	met := 0
+	greatest, met := f.things[root].greatest, 0
+	if greatest > maxGreatest {
+		return false
+	}
 	for ino, x := range f.things {
-		if ino < root || ino > f.things[root].greatest || x.Links == 0 || f.met[ino] != x.Links {
+		if ino > greatest || x.Links == 0 || f.met[ino] != x.Links {
 			return false
 		}
 		met += x.Links
