@@ -82,9 +82,12 @@ func (c *Chunks) place(x chunk, b string) api.Errno {
 
 // note: what was written to a block, if there is a mark that one may go back to.
 func (c *Chunks) note(block int, b string) {
-	if c.written != nil {
-		c.written[block] = [api.Chunk]byte([]byte(b))
+	if c.written == nil {
+		return
 	}
+	var l [api.Chunk]byte
+	copy(l[:], b)
+	c.written[block] = l
 }
 
 // leave: a chunk's block is given back, if it has one.

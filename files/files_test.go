@@ -570,3 +570,17 @@ func TestBeyondTheSize(t *testing.T) {
 		t.Errorf("%q", b)
 	}
 }
+
+// What changes nothing puts nothing into the tree, and writes nothing.
+func TestNothingToDo(t *testing.T) {
+	h := built(t, 50, 20)
+	h.writes(2, 0, fill('a', 600))
+	told(t, "Commit", h.p.Commit(), api.OK)
+	h.reads(2, 100, 1024, fill('a', 500))
+	told(t, "Write", h.f.Write(2, 600, nil), api.OK)
+	h.cuts(2, 600)
+	told(t, "Remove", h.f.Remove(4), api.OK)
+	if h.p.Dirty() != 0 || h.d.Pending() != 0 {
+		t.Errorf("%d pages and %d writes wait", h.p.Dirty(), h.d.Pending())
+	}
+}
