@@ -198,6 +198,44 @@ func TestBackWithoutPower(t *testing.T) {
 	}
 }
 
+// A power that goes off while one goes back to a mark touches nothing of what was committed, whatever was to be written again.
+func TestBackCutShort(t *testing.T) {
+	cuts, answers := 0, map[api.Errno]int{}
+	for seed := range 150 {
+		d := dice(seed)
+		p := players(t, d, 60, 2+d.below(12), answers)
+		for range 5 {
+			for range 20 {
+				p.step()
+			}
+			told(t, "Commit", p.s.Commit(), api.OK)
+			p.marks = nil
+			p.settle()
+			last := p.w.copied()
+			for range 15 {
+				p.step()
+				p.marked()
+			}
+			p.d.Arm(p.dice.below(4))
+			for _, x := range p.marks {
+				if p.c.Back(x.m) == api.ErrDown {
+					cuts++
+				}
+			}
+			p.revive()
+			if !maps.Equal(p.found(), last.bare()) {
+				t.Fatal("seed", seed)
+			}
+			p.w = last
+			p.w.leaving = 0
+			p.right()
+		}
+	}
+	if cuts < 100 {
+		t.Errorf("only %d were cut short", cuts)
+	}
+}
+
 // What Back refuses.
 func TestBackRefuses(t *testing.T) {
 	y, other := ground(t, 50, 4), ground(t, 50, 4)
