@@ -16,8 +16,15 @@ func (w written) copied() written {
 	return maps.Clone(w)
 }
 
-// change does a change wholly, or not at all.
+// bytesIn are bytes of a block.
+type bytesIn struct {
+	block int
+	bytes [api.Chunk]byte
+}
+
+// change does a change wholly, or not at all. No block is taken as long as something is owed: then there is no power.
 func (c *Chunks) change(do func() api.Errno) api.Errno {
+	c.pay()
 	m, blocks := c.tree.Mark(), c.blocks.Copy()
 	e := do()
 	if e != api.OK {
@@ -106,16 +113,68 @@ func (c *Chunks) drop(x chunk) api.Errno {
 	return c.leave(x)
 }
 
-// restore: what was written to blocks stands in them again, rising by block; what stands there still isn't written anew.
-func (c *Chunks) restore(w written) api.Errno {
+// held: what a block holds; what is owed to it stands for what the device has.
+func (c *Chunks) held(block int) ([]byte, api.Errno) {
+	b, e := c.device.Read(c.first + block)
+	if l, ok := c.owed[block]; ok && e != api.ErrDown {
+		return l[:], api.OK
+	}
+	return b, e
+}
+
+// lacking: of what was written to blocks, what doesn't stand in them any longer, rising by block; how much of it, at the
+// front, is of blocks that are free.
+func (c *Chunks) lacking(w written) ([]bytesIn, int) {
+	var free, taken []bytesIn
 	for _, block := range slices.Sorted(maps.Keys(w)) {
-		b := w[block]
-		if now, ok := c.written[block]; ok && now == b {
-			continue
-		}
-		if e := c.device.Write(c.first+block, b[:]); e != api.OK {
-			return e
+		x := bytesIn{block, w[block]}
+		switch now, ok := c.written[block]; {
+		case !ok:
+			free = append(free, x)
+		case now != x.bytes:
+			taken = append(taken, x)
 		}
 	}
+	return append(free, taken...), len(free)
+}
+
+// restore: bytes stand in their blocks again, and last; the first so many blocks are free. Once a block that isn't free was
+// written over, one can't go back without power; so then one goes on, and what isn't sure to last is owed.
+func (c *Chunks) restore(l []bytesIn, free int) api.Errno {
+	if len(l) == 0 {
+		return api.OK
+	}
+	n, e := c.writeAll(l)
+	if e == api.OK || n <= free {
+		return e
+	}
+	c.owed = written{}
+	for _, x := range l {
+		c.owed[x.block] = x.bytes
+	}
 	return api.OK
+}
+
+// writeAll: bytes stand in their blocks, and last; how many were written, even if they may not last.
+func (c *Chunks) writeAll(l []bytesIn) (int, api.Errno) {
+	for i, x := range l {
+		if e := c.device.Write(c.first+x.block, x.bytes[:]); e != api.OK {
+			return i, e
+		}
+	}
+	return len(l), c.device.Flush()
+}
+
+// pay: what is owed is written, if there is power.
+func (c *Chunks) pay() {
+	if len(c.owed) == 0 {
+		return
+	}
+	var l []bytesIn
+	for _, block := range slices.Sorted(maps.Keys(c.owed)) {
+		l = append(l, bytesIn{block, c.owed[block]})
+	}
+	if _, e := c.writeAll(l); e == api.OK {
+		c.owed = nil
+	}
 }
